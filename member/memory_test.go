@@ -143,3 +143,17 @@ func TestOneAnswer(t *testing.T) {
 		t.Error("R6: another member has changed")
 	}
 }
+
+// A nil list and an empty one are the same, handed in.
+func TestNothingIsNil(t *testing.T) {
+	c := four()
+	c.Projs[2].Sort = []int{}
+	wantShapes(t, "no sort columns", member.Shapes(c, 1), member.Shapes(four(), 1)...)
+	m, d := begin(t, 1)
+	nothing := api.Part{Inserts: []api.Insert{}, Erases: []api.Erase{}}
+	wantSaid(t, "R4: MsgPrepare", m.Take(prepare(2, 1, nothing)), vote(2, true))
+	wantSaid(t, "R4: MsgDecide", m.Take(decide(2, 2)), throughTold(2, 0))
+	m.Take(copyOf(1, at0, 2, 3, 0, []api.Version{}...))
+	wantSaid(t, "R4: MsgCopy", m.Take(copyOf(1, at1, 2, 3, 0, []api.Version{}...)), joined(1, 3))
+	wantHas(t, "empty lists", m, d, 3, 0, list(grown(1)), nil)
+}
